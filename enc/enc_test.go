@@ -573,3 +573,16 @@ func TestP4AnswersAreNew(t *testing.T) {
 		}
 	}
 }
+
+func TestP30IsValue(t *testing.T) {
+	for _, v := range []api.Value{{}, {Kind: -1}, {Kind: 6}, {Kind: api.Bool, N: 2}, {Kind: api.Bool, S: "x"}, {Kind: api.Int, N: 1 << 31}, {Kind: api.Int, N: -1<<31 - 1}, {Kind: api.Long, S: "x"}, {Kind: api.Double, S: "x"}, {Kind: api.Bytes, N: 1}, {Kind: api.Bytes, S: string(make([]byte, api.MaxBytes+1))}} {
+		if enc.IsValue(v) {
+			t.Errorf("%+v is none", v)
+		}
+	}
+	for _, v := range []api.Value{{Kind: api.Bool}, {Kind: api.Bool, N: 1}, {Kind: api.Int, N: 1<<31 - 1}, {Kind: api.Int, N: -1 << 31}, {Kind: api.Long, N: 1 << 40}, {Kind: api.Double, N: -1}, {Kind: api.Bytes}, {Kind: api.Bytes, S: string(make([]byte, api.MaxBytes))}} {
+		if !enc.IsValue(v) {
+			t.Errorf("%+v is one", v)
+		}
+	}
+}
