@@ -392,3 +392,52 @@ func TestP54WrittenIsRead(t *testing.T) {
 		}
 	}
 }
+
+// TestP51Values: a value by itself, as it stands in a record, with whatever behind it.
+func TestP51Values(t *testing.T) {
+	r := rand.New(rand.NewSource(515))
+	for range 20000 {
+		kind := 1 + r.Intn(5)
+		v := anyValue(r, kind)
+		want := textOf(api.Node{Rep: api.Required, Kind: kind}, api.Datum{V: v})
+		s, err := data.ValueText(v)
+		if s != want || err != nil {
+			t.Fatalf("%+v: %s, %v, not %s", v, s, err, want)
+		}
+		for _, behind := range []string{"", " ", ")", `"`, "x", "\x00"} {
+			if got, used, err := data.ReadValue(kind, s+behind); got != v || used != len(s) || err != nil {
+				t.Fatalf("%s%s: %+v, %d, %v", s, behind, got, used, err)
+			}
+		}
+		// As a record has it, so has it a value alone: what is spoilt, too.
+		spoilt := spoilText(r, s)
+		root := api.Node{Name: "root", Rep: api.Required, Kind: api.Group, Sub: []api.Node{{ID: 1, Name: "a", Rep: api.Required, Kind: kind}}}
+		got, used, err := data.ReadValue(kind, spoilt)
+		if err == nil {
+			d, err := data.Read(root, "{a:"+spoilt[:used]+"}")
+			if err != nil || d.F[0].V != got {
+				t.Fatalf("%s: %+v, %d, not %+v, %v", spoilt, got, used, d, err)
+			}
+			continue
+		}
+		fault, _ := err.(*api.Fault)
+		if _, whole := data.Read(root, "{a:"+spoilt); fault == nil || !faultAt(whole, fault.At+3) || fault.Err != api.ErrText || used != 0 || got != (api.Value{}) {
+			t.Fatalf("%s: %+v, %d, %v, not %+v", spoilt, got, used, err, whole)
+		}
+	}
+}
+
+func TestP51NoValues(t *testing.T) {
+	for _, v := range []api.Value{{}, {Kind: 6}, {Kind: -1}, {Kind: api.Int, N: math.MaxInt32 + 1}, {Kind: api.Bool, N: 2}, {Kind: api.Long, S: "x"}, {Kind: api.Bytes, N: 1}, {Kind: api.Bytes, S: strings.Repeat("x", api.MaxBytes+1)}} {
+		if s, err := data.ValueText(v); s != "" || err != api.ErrKind {
+			t.Errorf("%+v: %q, %v", v, s, err)
+		}
+	}
+	for _, kind := range []int{api.Group, -1, 6, math.MaxInt, math.MinInt} {
+		for _, s := range []string{"", "1", "null", "{}"} {
+			if v, used, err := data.ReadValue(kind, s); v != (api.Value{}) || used != 0 || err != api.ErrKind {
+				t.Errorf("%d, %s: %+v, %d, %v", kind, s, v, used, err)
+			}
+		}
+	}
+}

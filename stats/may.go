@@ -10,7 +10,7 @@ import (
 
 // May some value stand so?
 func May(s Stats, how string, v api.Value) (bool, error) {
-	stands, is := standings()[how]
+	stands, is := Standing(how)
 	if !is {
 		return false, api.ErrText
 	}
@@ -28,6 +28,12 @@ func May(s Stats, how string, v api.Value) (bool, error) {
 	// If any value between them stands so, one of the ends does, or v itself.
 	within := !enc.Less(v, low) && !enc.Less(high, v)
 	return stands(low, v) || stands(high, v) || within && stands(v, v), nil
+}
+
+// Standing of that name: whether a stands so to b.
+func Standing(how string) (stands func(a, b api.Value) bool, is bool) {
+	stands, is = standings()[how]
+	return stands, is
 }
 
 // standings: how one value may stand to another one.

@@ -259,3 +259,23 @@ func TestP93MayWhereAValueStandsSo(t *testing.T) {
 		t.Errorf("ruled out %d times", ruledOut)
 	}
 }
+
+// TestP92Standing: by its name, how one value stands to another one.
+func TestP92Standing(t *testing.T) {
+	r := rand.New(rand.NewSource(921))
+	for range 5000 {
+		kind := kinds[r.Intn(len(kinds))]
+		a, b := anyValue(r, kind), anyValue(r, kind)
+		for _, how := range hows {
+			is, has := stats.Standing(how)
+			if !has || is(a, b) != stands(a, how, b) || is(a, a) != stands(a, how, a) {
+				t.Fatalf("%+v %s %+v: %v", a, how, b, has)
+			}
+		}
+	}
+	for _, how := range []string{"", "==", "is", " <", "< ", "\x00"} {
+		if is, has := stats.Standing(how); is != nil || has {
+			t.Errorf("%q", how)
+		}
+	}
+}
