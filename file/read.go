@@ -43,7 +43,7 @@ func Read(s string) (root api.Node, l []api.Datum, err error) {
 	if err != nil {
 		return api.Node{}, nil, err
 	}
-	cols, err := columns(s, f)
+	cols, err := allColumns(s, f)
 	if err != nil {
 		return api.Node{}, nil, err
 	}
@@ -62,20 +62,17 @@ func (p Part) liesIn(s string) bool {
 	})
 }
 
-// columns of all leaves, those of all groups joined.
-func columns(s string, f Footer) ([]api.Column, error) {
-	leaves, err := schema.Leaves(f.Root)
-	if err != nil {
-		return nil, err
-	}
-	cols := make([]api.Column, len(leaves))
-	for i, leaf := range leaves {
-		cols[i].ID = leaf.ID
+// Columns of these leaves, in this order, each joined of those of these groups. Column's
+// errors, group by group, leaf by leaf; ErrShape: one of more than MaxEntries entries.
+func Columns(s string, f Footer, groups, ids []int) ([]api.Column, error) {
+	cols := make([]api.Column, len(ids))
+	for i, id := range ids {
+		cols[i].ID = id
 	}
 	tooLong := false
-	for group := range f.Groups {
-		for i, leaf := range leaves {
-			c, err := Column(s, f, group, leaf.ID)
+	for _, group := range groups {
+		for i, id := range ids {
+			c, err := Column(s, f, group, id)
 			if err != nil {
 				return nil, err
 			}
@@ -92,6 +89,22 @@ func columns(s string, f Footer) ([]api.Column, error) {
 		return nil, api.ErrShape
 	}
 	return cols, nil
+}
+
+// allColumns of all leaves, in order.
+func allColumns(s string, f Footer) ([]api.Column, error) {
+	leaves, err := schema.Leaves(f.Root)
+	if err != nil {
+		return nil, err
+	}
+	var groups, ids []int
+	for group := range f.Groups {
+		groups = append(groups, group)
+	}
+	for _, leaf := range leaves {
+		ids = append(ids, leaf.ID)
+	}
+	return Columns(s, f, groups, ids)
 }
 
 // lay a column's entries behind those of all.

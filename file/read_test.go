@@ -114,6 +114,44 @@ func TestP123ColumnBounds(t *testing.T) {
 	mustNotColumn(t, "", file.Footer{Root: root}, 0, 1, api.ErrBound)
 }
 
+// TestP123Columns: those of some groups, joined, of some leaves.
+func TestP123Columns(t *testing.T) {
+	root, l := small()
+	s := mustWrite(t, root, l, 1, 2)
+	f := mustOpen(t, s)
+	for _, c := range []struct {
+		groups, ids []int
+		want        string
+	}{
+		{[]int{0, 1, 2}, []int{1, 2}, "[{1 [0 0 0] [0 0 0] [{2 7 } {2 8 } {2 9 }]} {2 [0 1 0 0] [1 1 0 1] [{4 0 x} {4 0 y} {4 0 z}]}]"},
+		{[]int{0, 2}, []int{2}, "[{2 [0 1 0] [1 1 1] [{4 0 x} {4 0 y} {4 0 z}]}]"},
+		{[]int{2, 0}, []int{2, 1}, "[{2 [0 0 1] [1 1 1] [{4 0 z} {4 0 x} {4 0 y}]} {1 [0 0] [0 0] [{2 9 } {2 7 }]}]"},
+		{nil, []int{2}, "[{2 [] [] []}]"},
+		{[]int{1}, nil, "[]"},
+	} {
+		if got, err := file.Columns(s, f, c.groups, c.ids); fmt.Sprint(got) != c.want || err != nil {
+			t.Errorf("groups %v, leaves %v: %v, %v, not %s", c.groups, c.ids, got, err, c.want)
+		}
+	}
+	for _, c := range []struct {
+		groups, ids []int
+		want        error
+	}{
+		{[]int{0, 3}, []int{1}, api.ErrBound}, {[]int{-1}, []int{1, 9}, api.ErrBound}, {[]int{0, 3}, []int{1, 9}, api.ErrNone}, {[]int{0}, []int{0}, api.ErrNone},
+	} {
+		if got, err := file.Columns(s, f, c.groups, c.ids); len(got) > 0 || err != c.want {
+			t.Errorf("groups %v, leaves %v: %v, %v, not %v", c.groups, c.ids, got, err, c.want)
+		}
+	}
+	// So often that there are too many entries.
+	if got, err := file.Columns(s, f, make([]int, api.MaxEntries/2), []int{2}); len(got) != 1 || len(got[0].Rep) != api.MaxEntries || err != nil {
+		t.Error(len(got), err)
+	}
+	if got, err := file.Columns(s, f, make([]int, api.MaxEntries/2+1), []int{2}); len(got) > 0 || err != api.ErrShape {
+		t.Error(len(got), err)
+	}
+}
+
 // TestP123LeadsOut: a group that leads out of s is none, whichever of its chunks it is.
 func TestP123LeadsOut(t *testing.T) {
 	root, l := small()
