@@ -25,13 +25,14 @@ func (t *Table) commit(next state, texts ...string) error {
 // write what comes under names that tell nothing, so that all is there when one step, the
 // last one, makes it the table.
 func (t *Table) write(next state, texts []string) (state, error) {
+	there := t.files()
 	var added []stored
 	for _, s := range texts {
-		f, err := t.put(s)
+		f, err := t.keep(there, s)
 		if err != nil {
 			return state{}, err
 		}
-		added = append(added, f)
+		there, added = append(there, f), append(added, f)
 	}
 	next = next.with(added)
 	s, err := next.text()
@@ -57,6 +58,19 @@ func (t *Table) writeAgain(next state, texts []string) (state, error) {
 		}
 	}
 	return made, err
+}
+
+// keep a text that one of these files may have already: each is on the disk once.
+func (t *Table) keep(there []stored, s string) (stored, error) {
+	for _, f := range there {
+		if f.size != len(s) {
+			continue
+		}
+		if got, err := t.read(f); err == nil && got == s {
+			return f, nil
+		}
+	}
+	return t.put(s)
 }
 
 // put a text on the disk, under a name that no file has: what an earlier change has left

@@ -413,6 +413,38 @@ func TestP174Collect(t *testing.T) {
 	mustCollect(x, 0)
 }
 
+// TestP174EachOnce: what is appended again and again is one file on the disk, in each of its
+// places; one of the same length is another one.
+func TestP174EachOnce(t *testing.T) {
+	d, x, m := tableOf(9000, addA)
+	for i := range 12 {
+		m = mustDo(t, x, m, m.appendOf("{a:"+strconv.Itoa(i%3)+"}"))
+		if n := len(d.Names()); n != min(i+1, 3)+1 || len(must(x.Files(0))) != i+1 {
+			t.Error(i, d.Names())
+		}
+	}
+	mustBe(t, x, m)
+	mustStand(t, d, m)
+	if n, err := x.Collect(); n != 0 || err != nil {
+		t.Error(n, err)
+	}
+}
+
+// TestP174OnceAndChanged: a file that was changed behind the table is not the one that comes.
+func TestP174OnceAndChanged(t *testing.T) {
+	d, x, m := tableOf(9000, addA)
+	c := m.appendOf("{a:1}")
+	m = mustDo(t, x, m, c)
+	name := d.Names()[0]
+	mustTell(t, d.Append(name, "x"), nil)
+	mustTell(t, c.of(x), nil)
+	if n := len(d.Names()); n != 3 || name == "table" {
+		t.Error(d.Names())
+	}
+	put(d, name, m.snaps[0][0].text)
+	mustStand(t, d, must(m.call(c)))
+}
+
 func TestP174CollectCut(t *testing.T) {
 	d, x, m := tableOf(9000, addA)
 	m = mustDo(t, x, m, m.appendOf("{a:1}"))

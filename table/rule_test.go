@@ -133,13 +133,15 @@ func (m model) texts(snapshot int) []string {
 	return out
 }
 
-// unlike files of all snapshots: a newer one has those of the one ahead, and one more.
+// files of all snapshots, each once: what has the same text is one.
 func (m model) files() int {
-	n := 0
-	for _, snap := range m.snaps {
-		n = max(n, len(snap))
+	texts := map[string]int{}
+	for k := range m.snaps {
+		for _, s := range m.texts(k) {
+			texts[s]++
+		}
 	}
-	return n
+	return len(texts)
 }
 
 // size of the files of all snapshots, and of all edits: what P171 hangs the room on.

@@ -4,6 +4,7 @@ import (
 	"math/rand"
 	"reflect"
 	"slices"
+	"strconv"
 	"strings"
 	"testing"
 
@@ -173,13 +174,16 @@ func TestP1AnyState(t *testing.T) {
 // (Appends alone never come so far.)
 func TestP171MaxFiles(t *testing.T) {
 	edits := []string{"add 0 required int a;"}
-	s := fileOf(edits, "{a:5}")
+	var texts []string
+	for i := range 38 {
+		texts = append(texts, fileOf(edits, "{a:"+strconv.Itoa(i)+"}"))
+	}
 	tableOf := func(files int) (*disk.Disk, *Table) {
 		d := must(disk.New(api.MaxQuota))
 		x := must(Create(d))
 		must(0, x.Edit(edits[0]))
-		must(0, x.commit(x.behind(nil), slices.Repeat([]string{s}, 19)...))
-		must(0, x.commit(x.behind(nil), slices.Repeat([]string{s}, files-19)...))
+		must(0, x.commit(x.behind(nil), texts[:19]...))
+		must(0, x.commit(x.behind(nil), texts[19:files]...))
 		return d, x
 	}
 	d, x := tableOf(37)
